@@ -13,12 +13,15 @@ import (
 // row is what was executed at a number.
 type row struct{ batch, chain string }
 
-// audit (11.4 to 11.6): what honest replicas executed agrees number by number, was committed by a quorum in one view, and is requests that clients signed; the state of each is the house's behind it.
+// audit (11.4 to 11.6): what honest replicas executed agrees number by number, was committed by a quorum in one view, and is requests that clients signed; the state of each is the house's behind it, and nothing else is kept that is stable.
 func (x *world) audit() {
 	x.t.Helper()
 	rows := map[int]row{}
 	for _, i := range x.honest() {
 		x.wantHistory(i, rows)
+		if what := x.all[i].Overkept(); what != "" {
+			x.t.Fatalf("%d still keeps %s", i, what)
+		}
 	}
 	replies := x.wantFold(rows)
 	for _, r := range x.told {

@@ -92,14 +92,14 @@ func (r *Replica) arrange(base int, wishes []wish) {
 	best := map[int]api.Body{}
 	for _, w := range wishes {
 		for _, p := range w.proofs {
-			if old, ok := best[p.Seq]; p.Seq > base && (!ok || p.View > old.View) {
+			if old, ok := best[p.Seq]; !ok || p.View > old.View {
 				best[p.Seq] = p
 			}
 			t.top = max(t.top, p.Seq)
 		}
 	}
 	t.plan = map[int]plan{}
-	for seq := base + 1; seq <= t.top; seq++ {
+	for seq := max(base, r.log.Low()) + 1; seq <= t.top; seq++ {
 		batch, _ := wire.Batch(nil)
 		if p, ok := best[seq]; ok {
 			batch = p.Text

@@ -65,6 +65,9 @@ func (r *Replica) onCheck(m api.Signed, b api.Body) bool {
 
 // settle makes stable what a quorum agrees on; false, if there is nothing such.
 func (r *Replica) settle() bool {
+	if len(r.states) == 0 {
+		return false
+	}
 	seq, root, cert := r.log.Stable()
 	return r.stand(seq, root, cert)
 }

@@ -15,6 +15,9 @@ func (x *world) step() {
 	if x.liars() > 0 {
 		kinds = 36
 	}
+	if x.dice(150) == 0 {
+		x.asleep = x.dice(x.n+2) - 2 // with two more that are nobody
+	}
 	k := x.dice(kinds)
 	switch {
 	case k < 16 && len(x.net) > 0:
@@ -55,7 +58,7 @@ func (x *world) liars() int { return x.n - len(x.honest()) }
 func (x *world) onceMore(s mail) {
 	x.t.Helper()
 	r := x.all[s.to]
-	if x.liar[s.to] && x.mute {
+	if x.liar[s.to] && x.mute || s.to == x.asleep {
 		return
 	}
 	before, drops := pictureOf(r), r.Drops()

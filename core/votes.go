@@ -33,8 +33,10 @@ func (r *Replica) vote() {
 		if !ok {
 			continue
 		}
-		r.cast(api.KindPrepare, seq, digest)
-		if r.log.Prepared(seq) {
+		if !r.voted(api.KindPrepare, seq) {
+			r.cast(api.KindPrepare, seq, digest)
+		}
+		if !r.voted(api.KindCommit, seq) && r.log.Prepared(seq) {
 			r.cast(api.KindCommit, seq, digest)
 		}
 		if _, has := r.kept[seq]; !has && r.log.Committed(seq) {
@@ -43,11 +45,14 @@ func (r *Replica) vote() {
 	}
 }
 
-// cast gives a vote, if it has not been given.
+// voted tells whether its own vote has been given.
+func (r *Replica) voted(kind, seq int) bool {
+	_, has := r.log.Voted(kind, seq, r.id)
+	return has
+}
+
+// cast gives its vote.
 func (r *Replica) cast(kind, seq int, digest string) {
-	if _, has := r.log.Voted(kind, seq, r.id); has {
-		return
-	}
 	b := api.Body{Kind: kind, View: r.log.View(), Seq: seq, Digest: digest}
 	m, ok := r.seal(b)
 	if ok && r.log.Vote(m, b) == api.OK {

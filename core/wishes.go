@@ -63,11 +63,9 @@ func (r *Replica) onChange(m api.Signed, b api.Body) bool {
 
 // join wishes for the highest view for which, or for higher ones, so many others wish that not all of them lie.
 func (r *Replica) join() {
-	var views []int
-	for who, w := range r.wishes {
-		if who != r.id {
-			views = append(views, w.view)
-		}
+	var views []int // of its own wish, too, which is for no higher view
+	for _, w := range r.wishes {
+		views = append(views, w.view)
 	}
 	slices.Sort(views)
 	if at := len(views) - 1 - r.config.Faults; at >= 0 && views[at] > r.log.View() {

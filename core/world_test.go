@@ -44,6 +44,8 @@ type world struct {
 	all    []*core.Replica
 	liar   []bool
 	mute   bool // liars take nothing, and have no ticks
+	secret bool // the book is one of secrets, which does not tell who signed what
+	asleep int  // to whom all mail is lost; -1: nobody
 	net    []mail
 	seen   []spoken // all that was sent, by whomever, each once
 	known  map[api.Signed]int
@@ -62,7 +64,7 @@ type reply struct {
 
 func newWorld(t *testing.T, c api.Config, liars ...int) *world {
 	t.Helper()
-	x := &world{t: t, c: c, n: 3*c.Faults + 1, book: authn.NewBook(), known: map[api.Signed]int{}, vows: map[vow]string{}, lawful: map[string]int{}, stamps: make([]int, c.Clients), dice: chance(1)}
+	x := &world{t: t, c: c, n: 3*c.Faults + 1, book: authn.NewBook(), known: map[api.Signed]int{}, vows: map[vow]string{}, lawful: map[string]int{}, stamps: make([]int, c.Clients), dice: chance(1), asleep: -1}
 	x.liar = make([]bool, x.n)
 	for _, i := range liars {
 		x.liar[i] = true
@@ -252,7 +254,7 @@ func (x *world) swear(who int, s api.Sent, o spoken) {
 		x.t.Fatalf("%d said %x, then %x", who, was, o.m.Body)
 	}
 	x.vows[v] = o.m.Body
-	if o.b.Kind == api.KindCommit && x.signed(api.KindPrepare, o.b.View, o.b.Seq, o.b.Digest) < x.quorum() {
+	if o.b.Kind == api.KindCommit && !x.secret && x.signed(api.KindPrepare, o.b.View, o.b.Seq, o.b.Digest) < x.quorum() {
 		x.t.Fatalf("%d commits %+v, which %d prepared", who, o.b, x.signed(api.KindPrepare, o.b.View, o.b.Seq, o.b.Digest))
 	}
 }
@@ -282,7 +284,7 @@ func (x *world) take(i int) mail {
 // deliver hands over a piece of mail that is off its way.
 func (x *world) deliver(s mail) {
 	x.t.Helper()
-	if x.liar[s.to] && x.mute {
+	if x.liar[s.to] && x.mute || s.to == x.asleep {
 		return
 	}
 	x.give(s.to, s.bytes)
@@ -298,9 +300,10 @@ func (x *world) sweep() {
 	}
 }
 
-// round is a tick of all, and delivery of all, three times over.
+// round is a tick of all, and delivery of all, three times over: there is calm, and nobody sleeps.
 func (x *world) round() {
 	x.t.Helper()
+	x.asleep = -1
 	for i := range x.n {
 		x.tick(i)
 	}

@@ -394,3 +394,19 @@ func TestVerifyByAnotherBook(t *testing.T) {
 		t.Errorf("by another book Verify = %+v, %d", l, e)
 	}
 }
+
+// 12.4: a proof of another state, or one state's root with another one's checkpoints, shows nothing.
+func TestVerifyOfAnotherState(t *testing.T) {
+	for name, b := range bothBooks(t) {
+		for _, key := range []string{"a", "b", "c", "d"} {
+			for _, other := range [][]api.Record{nil, letters()[:1], {{Key: "a", Value: "1"}, {Key: "c", Value: "4"}}, {{Key: "a", Value: "1"}, {Key: "c", Value: "3"}, {Key: "e", Value: "5"}}} {
+				x := rightly(t, ofFaults(1), b, 4, letters(), key)
+				x.body.Text = proofOf(t, b, other, key)
+				wantLight(t, name+": another state's proof", x, client.Light{}, api.ErrProof)
+				y := rightly(t, ofFaults(1), b, 4, letters(), key)
+				y.body.Digest = rootOf(t, b, other)
+				wantLight(t, name+": another state's root", y, client.Light{}, api.ErrSig)
+			}
+		}
+	}
+}
